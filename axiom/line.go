@@ -21,7 +21,7 @@ func Line(j api.Judged) string {
 	return string(l)
 }
 
-// name answers the name of why a candidate is not allowed.
+// name answers the name of why a candidate is not allowed, other of a number that is none's.
 func name(why int) string {
 	switch why {
 	case api.WhyForm:
@@ -30,6 +30,8 @@ func name(why int) string {
 		return "order"
 	case api.WhyValue:
 		return "value"
+	case api.WhyPair:
+		return "pair"
 	}
-	return "pair"
+	return "other"
 }

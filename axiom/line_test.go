@@ -29,11 +29,19 @@ func TestLine(t *testing.T) {
 		// What no Judge answers.
 		{api.Judged{OK: true}, "ok"},
 		{api.Judged{OK: true, Why: api.WhyOrder, A: 1, B: 2}, "ok"},
-		{api.Judged{}, "pair 0 0"},
-		{api.Judged{Why: 5, A: 1, B: 2}, "pair 1 2"},
-		{api.Judged{Why: -1, A: 1, B: 2}, "pair 1 2"},
-		{api.Judged{Why: math.MinInt, A: 1, B: 2}, "pair 1 2"},
-		{api.Judged{Why: 1<<32 + 1, A: 1, B: 2}, "pair 1 2"},
+		{api.Judged{OK: true, Why: 9, A: 1, B: 2}, "ok"},
+		{api.Judged{}, "other 0 0"},
+		{api.Judged{A: -1, B: -1}, "other -1 -1"},
+		{api.Judged{Why: 9, A: -3, B: 12}, "other -3 12"},
+		{api.Judged{Why: 5, A: 1, B: 2}, "other 1 2"},
+		{api.Judged{Why: -1, A: 1, B: 2}, "other 1 2"},
+		{api.Judged{Why: math.MinInt, A: math.MinInt, B: math.MinInt}, "other -9223372036854775808 -9223372036854775808"},
+		{api.Judged{Why: math.MaxInt, A: 1, B: 2}, "other 1 2"},
+		// None of these is a name's number, though a part of its bits is.
+		{api.Judged{Why: 1<<8 + 1, A: 1, B: 2}, "other 1 2"},
+		{api.Judged{Why: 1<<16 + 2, A: 1, B: 2}, "other 1 2"},
+		{api.Judged{Why: 1<<32 + 3, A: 1, B: 2}, "other 1 2"},
+		{api.Judged{Why: -api.WhyPair, A: 1, B: 2}, "other 1 2"},
 		{api.Judged{Why: api.WhyForm, A: 3, B: 40}, "form 3 40"},
 		{api.Judged{Why: api.WhyPair, A: -10, B: -4096}, "pair -10 -4096"},
 		{api.Judged{Why: api.WhyOrder, A: math.MinInt, B: math.MinInt}, "order -9223372036854775808 -9223372036854775808"},
@@ -47,15 +55,17 @@ func TestLine(t *testing.T) {
 
 func TestLinesOfMany(t *testing.T) {
 	numbers := []int{math.MinInt, -4097, -11, -10, -9, -2, -1, 0, 1, 2, 8, 9, 10, 11, 19, 99, 100, 999, 1000, 4095, 4096, 1 << 32, math.MaxInt}
-	for why, name := range []string{1: "form", 2: "order", 3: "value", 4: "pair"} {
+	names := map[int]string{1: "form", 2: "order", 3: "value", 4: "pair"}
+	for why := -300; why <= 300; why++ {
+		name, is := names[why]
+		if !is {
+			name = "other"
+		}
 		for _, a := range numbers {
 			for _, b := range numbers {
-				if why == 0 {
-					continue
-				}
 				want := fmt.Sprintf("%s %d %d", name, a, b)
 				if got := axiom.Line(api.Judged{Why: why, A: a, B: b}); got != want {
-					t.Errorf("Line = %q, want %q", got, want)
+					t.Errorf("Line of why %d = %q, want %q", why, got, want)
 				}
 			}
 		}
