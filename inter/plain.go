@@ -64,15 +64,29 @@ func Turns(m api.Image, c api.Cand) ([]int, bool) {
 	return turns, true
 }
 
-// reach turns an event's hart till it made as many events as it has up to this one, and answers how many turns that took, and whether they were not too many.
+// reach turns an event's hart till it made as many events as it has up to this one, and answers how many turns that took, and whether none of these events needed too many.
 func (l *loom) reach(e api.Event) (int, bool) {
 	if e.Hart >= len(l.strands) {
 		return 0, false
 	}
-	s := l.strands[e.Hart]
+	s, all := l.strands[e.Hart], 0
+	// Fences ahead of it are events too: each of them has turns of its own.
+	for s.made <= e.At {
+		many, is := l.next(s)
+		if !is {
+			return 0, false
+		}
+		all += many
+	}
+	return all, true
+}
+
+// next turns a hart till it made one event more, and answers how many turns that took, and whether they were not too many.
+func (l *loom) next(s *strand) (int, bool) {
+	made := s.made
 	for ahead := range api.MaxWait {
-		l.turns[e.Hart]()
-		if s.made > e.At {
+		l.turns[s.number]()
+		if s.made > made {
 			return ahead + 1, true
 		}
 	}

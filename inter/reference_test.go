@@ -443,7 +443,7 @@ func plainTurns(m api.Image, c api.Cand) ([]int, bool) {
 			continue
 		}
 		l, is := plainSteps(m, number, row)
-		if !is {
+		if !is || waits(l) > 256 {
 			return nil, false
 		}
 		steps = append(steps, l)
@@ -453,13 +453,19 @@ func plainTurns(m api.Image, c api.Cand) ([]int, bool) {
 	for _, n := range c.Order {
 		e := all[n]
 		many := steps[e.Hart][e.At] - behind[e.Hart]
-		if many > 256 {
-			return nil, false
-		}
 		behind[e.Hart] += many
 		turns = append(turns, slices.Repeat([]int{e.Hart}, many)...)
 	}
 	return turns, len(turns) <= 65536
+}
+
+// waits answers the most steps from one of these up to the next one, and up to the first one.
+func waits(steps []int) int {
+	most, last := 0, 0
+	for _, step := range steps {
+		most, last = max(most, step-last), step
+	}
+	return most
 }
 
 // plainPairs tells whether no other hart stores between an SC and its pair, by turns.

@@ -318,7 +318,7 @@ func TestTurnsOfAnScThatNoWeaveWins(t *testing.T) {
 func TestTurnsThatWait(t *testing.T) {
 	nop := "addi x9, x9, 1"
 	fillers := map[string]lines{
-		"nothing asked": times(1, nop), "a mark": times(1, "addi x0, x5, 7"), "an out": times(1, "ecall"), "a fence": times(1, "fence rw, rw"), "an sc that is lost": times(1, scLine),
+		"nothing asked": times(1, nop), "a mark": times(1, "addi x0, x5, 7"), "an out": times(1, "ecall"), "an sc that is lost": times(1, scLine),
 	}
 	for name, filler := range fillers {
 		ahead := func(many int) lines { return slices.Repeat(filler, many) }
@@ -345,20 +345,76 @@ func TestTurnsThatWait(t *testing.T) {
 			t.Errorf("%s behind: %v, %t", name, got, is)
 		}
 	}
-	// Fences and others, together.
-	m := image(t, slices.Concat(times(128, nop, "fence rw, rw"), lines{"sd x5, 0(x6)"}))
-	holdTurns(t, m, must(t, m, weave(make([]int, 257)...)).Cand, nil)
-	m = image(t, slices.Concat(times(127, nop, "fence rw, rw"), lines{nop, "sd x5, 0(x6)"}))
-	holdTurns(t, m, must(t, m, weave(make([]int, 256)...)).Cand, make([]int, 256))
 	// Each hart waits for itself: others' turns between do not count.
 	l := slices.Concat(times(255, nop), lines{"sd x5, 0(x6)"}, times(255, nop), lines{"sd x5, 0(x7)"})
-	m = image(t, l, l, l)
+	m := image(t, l, l, l)
 	c := must(t, m, weave(slices.Repeat(on(0, 1, 2), 512)...)).Cand
 	var want []int
 	for _, hart := range on(0, 1, 2, 0, 1, 2) {
 		want = append(want, slices.Repeat(on(hart), 256)...)
 	}
 	holdTurns(t, m, c, want)
+}
+
+func TestTurnsThatWaitForFences(t *testing.T) {
+	nop, barrier := "addi x9, x9, 1", "fence rw, rw"
+	// A fence is an event: so many turns for it, and so many for the one behind it.
+	wait := func(many int, line string) lines { return append(times(many-1, nop), line) }
+	make := func(l ...lines) (api.Image, api.Cand) {
+		all := slices.Concat(l...)
+		m := image(t, all, lines{"sd x5, 0(x8)"})
+		return m, must(t, m, weave(slices.Repeat(on(0), len(all))...)).Cand
+	}
+	m, c := make(wait(202, barrier), wait(202, "sd x5, 0(x6)"))
+	holdTurns(t, m, c, slices.Repeat(on(0), 404))
+	m, c = make(wait(256, barrier), wait(256, "sd x5, 0(x6)"))
+	holdTurns(t, m, c, slices.Repeat(on(0), 512))
+	m, c = make(wait(257, barrier), wait(2, "sd x5, 0(x6)"))
+	holdTurns(t, m, c, nil)
+	m, c = make(wait(2, barrier), wait(257, "sd x5, 0(x6)"))
+	holdTurns(t, m, c, nil)
+	// Behind one of memory's, and one fence behind the other.
+	m, c = make(wait(256, "sd x5, 0(x6)"), wait(256, barrier), wait(256, barrier), wait(256, "ld x1, 0(x7)"))
+	holdTurns(t, m, c, slices.Repeat(on(0), 1024))
+	m, c = make(wait(256, "sd x5, 0(x6)"), wait(256, barrier), wait(257, barrier), wait(256, "ld x1, 0(x7)"))
+	holdTurns(t, m, c, nil)
+	m, c = make(wait(256, "sd x5, 0(x6)"), wait(257, barrier), wait(1, "ld x1, 0(x7)"))
+	holdTurns(t, m, c, nil)
+	// Many fences, of which none waits.
+	m, c = make(times(3000, barrier), lines{"sd x5, 0(x6)"})
+	holdTurns(t, m, c, slices.Repeat(on(0), 3001))
+	m, c = make(times(500, nop, barrier), lines{"sd x5, 0(x6)"})
+	holdTurns(t, m, c, slices.Repeat(on(0), 1001))
+	// What does not come into Order may wait for ever.
+	m, c = make(lines{"sd x5, 0(x6)"}, wait(300, barrier))
+	holdTurns(t, m, c, on(0))
+	// All that an event needs comes ahead of it in Order: the fences' turns, too.
+	m = image(t, slices.Concat(wait(200, barrier), wait(100, "sd x5, 0(x6)")), slices.Concat(wait(100, barrier), wait(200, "sd x5, 0(x7)")))
+	c = must(t, m, weave(slices.Repeat(on(0, 1), 300)...)).Cand
+	holdTurns(t, m, c, append(slices.Repeat(on(0), 300), slices.Repeat(on(1), 300)...))
+}
+
+func TestTurnsOfMoreFencesThanSteps(t *testing.T) {
+	// 257 fences, each behind 255 turns: together more than a weave may have.
+	round := append(times(253, "addi x10, x10, 0"), "fence rw, rw", "addi x9, x9, -1", "bne x9, x0, -1020")
+	l := slices.Concat(round, lines{"sd x5, 0(x6)"})
+	for _, x := range []struct {
+		rounds int
+		is     bool
+	}{{3, true}, {255, true}, {256, false}, {300, false}} {
+		m := image(t, l)
+		m.Start[0].X[9] = uint64(x.rounds)
+		c := of(append(long(x.rounds, func(int) api.Event { return fence() }), store(8, 5)))
+		may(t, c)
+		turns, is := inter.Turns(m, c)
+		want := 256*x.rounds + 1
+		if !x.is {
+			want = 0
+		}
+		if is != x.is || len(turns) != want {
+			t.Errorf("%d rounds: %d turns, %t", x.rounds, len(turns), is)
+		}
+	}
 }
 
 func TestTurnsOfHartsThatDoNotCome(t *testing.T) {
